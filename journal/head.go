@@ -2,6 +2,7 @@ package journal
 
 import (
 	"hindsight/api"
+	"hindsight/fixed"
 )
 
 // The bytes with which a header begins, and where its numbers are.
@@ -9,9 +10,10 @@ const (
 	magic   = "HSJ1"
 	countAt = 4
 	pagesAt = 8
+	zerosAt = 12
 )
 
-// numberSize is the size of a number in the journal.
+// numberSize is the size of the number of a page.
 const numberSize = 4
 
 // Head is the header of a journal of count entries, made when file 0 had that many pages.
@@ -21,8 +23,8 @@ func Head(count, pages int) ([]byte, api.Errno) {
 	}
 	b := make([]byte, api.Sector)
 	copy(b, magic)
-	putNumber(b[countAt:], count)
-	putNumber(b[pagesAt:], pages)
+	fixed.Put(b[countAt:pagesAt], count)
+	fixed.Put(b[pagesAt:zerosAt], pages)
 	return b, api.OK
 }
 
@@ -31,7 +33,7 @@ func ReadHead(b []byte) (int, int, bool) {
 	if len(b) != api.Sector {
 		return 0, 0, false
 	}
-	count, pages := number(b[countAt:]), number(b[pagesAt:])
+	count, pages := fixed.Get(b[countAt:pagesAt]), fixed.Get(b[pagesAt:zerosAt])
 	head, err := Head(count, pages)
 	if err != api.OK || !same(b, head) {
 		return 0, 0, false
@@ -42,13 +44,13 @@ func ReadHead(b []byte) (int, int, bool) {
 // title is the first sector of the entry of a page.
 func title(page int) []byte {
 	b := make([]byte, api.Sector)
-	putNumber(b, page)
+	fixed.Put(b[:numberSize], page)
 	return b
 }
 
 // readTitle is the page of the entry whose first sector is b, and whether b is one.
 func readTitle(b []byte) (int, bool) {
-	page := number(b)
+	page := fixed.Get(b[:numberSize])
 	if !isPage(page) || !same(b, title(page)) {
 		return 0, false
 	}
@@ -63,19 +65,3 @@ func isPage(n int) bool { return n >= 0 && n < api.MaxPages }
 
 // same reports whether two sectors have the same bytes.
 func same(a, b []byte) bool { return [api.Sector]byte(a) == [api.Sector]byte(b) }
-
-// putNumber writes n to the front of b.
-func putNumber(b []byte, n int) {
-	for i := range numberSize {
-		b[i] = byte(n >> (8 * (numberSize - 1 - i)))
-	}
-}
-
-// number is the number at the front of b.
-func number(b []byte) int {
-	n := 0
-	for _, c := range b[:numberSize] {
-		n = n<<8 | int(c)
-	}
-	return n
-}

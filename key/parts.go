@@ -1,30 +1,16 @@
 package key
 
-// wholeSize is the number of bytes of an integer.
-const wholeSize = 8
-
-// whole is n in bytes that have the order of integers.
-func whole(n int64) [wholeSize]byte {
-	var a [wholeSize]byte
-	for i := range a {
-		a[i] = byte(uint64(n) >> (8 * (wholeSize - 1 - i)))
-	}
-	a[0] ^= signBit
-	return a
-}
+import (
+	"hindsight/fixed"
+)
 
 // readWhole is the integer with which b begins, and whether there is one.
 func readWhole(b []byte) (int64, bool) {
-	var a [wholeSize]byte
-	if copy(a[:], b) < wholeSize {
+	var a [fixed.WholeSize]byte
+	if copy(a[:], b) < len(a) {
 		return 0, false
 	}
-	a[0] ^= signBit
-	n := uint64(0)
-	for _, c := range a {
-		n = n<<8 | uint64(c)
-	}
-	return int64(n), true
+	return fixed.ReadWhole(a), true
 }
 
 // escape is s with its zeros marked and its end added.

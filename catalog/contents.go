@@ -5,7 +5,7 @@ import (
 	"slices"
 
 	"hindsight/api"
-	"hindsight/cursor"
+	"hindsight/walk"
 )
 
 // The key of an entry is its mark, followed by its name.
@@ -56,19 +56,14 @@ func readable(has contents, err api.Errno) (contents, api.Errno) {
 
 // visit calls see with each key of the tree, and with its value or the error of reading that.
 func (c *Catalog) visit(see func(key string, v []byte, err api.Errno)) api.Errno {
-	at, last := cursor.New(c.tree), ""
-	err := at.First()
-	for err == api.OK && at.At() {
-		// In a damaged tree, the keys may go in a circle; the empty one belongs to no entry.
-		if at.Key() <= last {
-			return api.ErrCorrupt
+	for at, err := range walk.Pairs(c.tree, "") {
+		if err != api.OK {
+			return err
 		}
-		last = at.Key()
 		v, code := at.Value()
-		see(last, v, code)
-		err = at.Next()
+		see(at.Key(), v, code)
 	}
-	return err
+	return api.OK
 }
 
 // add adds the entry of a key, of which v is the value unless there is an error, and returns its error.
